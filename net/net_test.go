@@ -117,11 +117,12 @@ func wantBest(t *testing.T, what any, n *Net, from, to, seq, dist int) {
 	}
 }
 
-// wantPath holds the path from a node to a node against this one.
-func wantPath(t *testing.T, n *Net, from, to int, comes bool, want ...int) {
+// wantPath holds the path from a node to a node against this one; right: it does
+// not come to a node a second time, but to the node to.
+func wantPath(t *testing.T, n *Net, from, to int, right bool, want ...int) {
 	t.Helper()
-	if got, ok := n.Path(from, to); !slices.Equal(got, want) || ok != comes {
-		t.Errorf("Path(%d, %d): %v %v, want %v %v", from, to, got, ok, want, comes)
+	if got, ok := n.Path(from, to); !slices.Equal(got, want) || ok != right {
+		t.Errorf("Path(%d, %d): %v %v, want %v %v", from, to, got, ok, want, right)
 	}
 }
 
@@ -303,7 +304,8 @@ func (m *model) settle(rounds int) {
 	}
 }
 
-// path goes where ways go, to where it was already or to no node.
+// path goes where ways go, to where it was already or to no node: false only where
+// it was already, if that is not the node to.
 func (m *model) path(from, to int) ([]int, bool) {
 	var path []int
 	been := map[int]int{}
@@ -313,7 +315,7 @@ func (m *model) path(from, to int) ([]int, bool) {
 		}
 		path = append(path, at)
 	}
-	return path, false
+	return path, true
 }
 
 // wantAll holds all that a Net tells against a model.
@@ -323,10 +325,10 @@ func wantAll(t *testing.T, what any, n *Net, m *model) {
 	for from := range 6 {
 		for to := range 6 {
 			seq, dist := m.nodes[from].Best(to)
-			path, comes := m.path(from, to)
+			path, right := m.path(from, to)
 			wantWay(t, what, n, from, to, m.nodes[from].Way(to))
 			wantBest(t, what, n, from, to, seq, dist)
-			wantPath(t, n, from, to, comes, path...)
+			wantPath(t, n, from, to, right, path...)
 			wantCode(t, what, n.Cost(from, to), m.costs[[2]int{from, to}])
 		}
 	}
@@ -347,7 +349,7 @@ func TestNew(t *testing.T) {
 			}
 			wantWay(t, "New", n, from, to, none(0))
 			wantBest(t, "New", n, from, to, 0, far)
-			wantPath(t, n, from, to, false, from)
+			wantPath(t, n, from, to, true, from)
 			wantCode(t, "no links", n.Do(tell(from, to)), api.ErrNone)
 		}
 	}
@@ -733,13 +735,13 @@ func TestNoSuchNode(t *testing.T) {
 				wantWay(t, "to", n, a, bad, none(0))
 				wantBest(t, "from", n, bad, a, 0, far)
 				wantBest(t, "to", n, a, bad, 0, far)
-				wantPath(t, n, bad, a, false)
-				wantPath(t, n, a, bad, false, a)
+				wantPath(t, n, bad, a, true)
+				wantPath(t, n, a, bad, true, a)
 			}
 			for _, other := range noNodes() {
 				wantWay(t, "neither", n, bad, other, none(0))
 				wantBest(t, "neither", n, bad, other, 0, far)
-				wantPath(t, n, bad, other, false)
+				wantPath(t, n, bad, other, true)
 			}
 		}
 	}
@@ -762,14 +764,36 @@ func TestPath(t *testing.T) {
 		wantPath(t, n, a, a, true, a)
 	}
 	do(t, n, link(2, 3, 0))
-	// The others do not know yet, and the path ends at the one that does.
-	wantPath(t, n, 0, 5, false, 0, 1, 2)
-	wantPath(t, n, 2, 5, false, 2)
+	// The others do not know yet, and the path ends at the one that does: it comes
+	// to no node, and so to none a second time.
+	wantPath(t, n, 0, 5, true, 0, 1, 2)
+	wantPath(t, n, 2, 5, true, 2)
 	wantPath(t, n, 3, 5, true, 3, 4, 5)
 }
 
+// A way that leads to no node tells true, wherever it ends: at once, for nothing
+// was heard yet or there is no such node, or behind others.
+func TestPathToNoNode(t *testing.T) {
+	n := with(t, link(0, 1, 3), tell(0, 1))
+	hearAll(t, n)
+	wantPath(t, n, 1, 0, true, 1, 0)
+	wantPath(t, n, 0, 1, true, 0)
+	wantPath(t, n, 1, 2, true, 1)
+	do(t, n, link(1, 2, 4), tell(1, 2))
+	hearAll(t, n)
+	wantPath(t, n, 2, 0, true, 2, 1, 0)
+	do(t, n, link(0, 1, 0))
+	wantPath(t, n, 2, 0, true, 2, 1)
+	wantPath(t, n, 1, 0, true, 1)
+	wantPath(t, n, 2, api.MaxNodes, true, 2)
+	wantPath(t, n, api.Drop, 0, true)
+	wantPath(t, n, api.Drop, api.Drop, true)
+	wantPath(t, n, api.MaxNodes, api.MaxNodes, true)
+}
+
 // Ways that go round can't be made by steps. Where nodes were lied to a path ends
-// all the same, at the first node that comes again, which is not the last one.
+// all the same, at the first node that comes again, and tells false, for that is
+// not the node to; a way to one of those nodes itself is none that goes round.
 func TestPathOfLies(t *testing.T) {
 	n := with(t, link(0, 1, 1), link(2, 0, 1))
 	for _, x := range []api.News{
@@ -780,6 +804,12 @@ func TestPathOfLies(t *testing.T) {
 	wantPath(t, n, 0, 5, false, 0, 1)
 	wantPath(t, n, 1, 5, false, 1, 0)
 	wantPath(t, n, 2, 5, false, 2, 0, 1)
+	wantPath(t, n, 0, 0, true, 0)
+	wantPath(t, n, 0, 1, true, 0)
+	wantPath(t, n, 5, 5, true, 5)
+	do(t, n, link(0, 1, 0))
+	wantPath(t, n, 2, 5, true, 2, 0)
+	wantPath(t, n, 0, 5, true, 0)
 }
 
 // Of 0 rounds, and of fewer: the news are lost and all are younger, but nobody is
@@ -852,9 +882,10 @@ func wantSettled(t *testing.T, what any, n *Net) {
 		for to, dist := range n.Far(from) {
 			x := n.Way(from, to)
 			wantCode(t, what, x.Dist, dist)
-			path, comes := n.Path(from, to)
-			if comes != (dist < far) || (x.Hop == api.Drop) != (dist == far) {
-				t.Errorf("%v: from %d to %d: %v, %v %v", what, from, to, x, path, comes)
+			path, right := n.Path(from, to)
+			comes := len(path) > 0 && path[len(path)-1] == to
+			if !right || comes != (dist < far) || (x.Hop == api.Drop) != (dist == far) {
+				t.Errorf("%v: from %d to %d: %v, %v %v", what, from, to, x, path, right)
 			}
 			sum := 0
 			for i := 1; comes && i < len(path); i++ {
@@ -885,7 +916,7 @@ func TestSettle(t *testing.T) {
 	wantSettled(t, "apart", n)
 	wantWay(t, "apart", n, 3, 4, none(2))
 	wantBest(t, "apart", n, 3, 4, 2, 18)
-	wantPath(t, n, 3, 4, false, 3)
+	wantPath(t, n, 3, 4, true, 3)
 	do(t, n, link(4, 5, 6), link(5, 2, 7))
 	n.Settle(14)
 	wantSettled(t, "by another one", n)
@@ -1005,7 +1036,7 @@ func wantNotRound(t *testing.T, n *Net) {
 				}
 				at, been = next, append(been, next)
 			}
-			wantPath(t, n, from, to, at == to, been...)
+			wantPath(t, n, from, to, true, been...)
 		}
 	}
 }
@@ -1183,7 +1214,7 @@ func TestNil(t *testing.T) {
 		wantWay(t, "nil", n, from, 0, none(0))
 		wantBest(t, "nil", n, from, 0, 0, far)
 	}
-	wantPath(t, n, -1, 0, false)
-	wantPath(t, n, 6, 6, false)
-	wantPath(t, n, 0, 1, false, 0)
+	wantPath(t, n, -1, 0, true)
+	wantPath(t, n, 6, 6, true)
+	wantPath(t, n, 0, 1, true, 0)
 }
